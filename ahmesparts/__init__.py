@@ -1,0 +1,1 @@
+"""Fractions as sums of parts."""
