@@ -45,3 +45,23 @@ def greatest(p, q, most):
         upper = upper * part - lower
         lower = lower * part
     return [len(parts)] + parts
+
+
+def products(p, q, most):
+    """How many numbers a, b, c and so on tell p / q as 1/a + 1/(a b) + 1/(a b c) and so on, then these numbers.
+
+    [-2] if an argument is out of range; [-1] if there are more numbers than most.
+    """
+    if not is_proper_in_range(p, q) or not is_most_in_range(most):
+        return [OUT_OF_RANGE]
+    # What's left, times the number, has q as its lower number again, so the upper one alone is kept.
+    upper = p
+    numbers = []
+    # It is less each time than before, so this ends.
+    while upper > 0:
+        if len(numbers) == most:
+            return [NO_ANSWER]
+        number = greatest_part(upper, q)
+        numbers.append(number)
+        upper = upper * number - q
+    return [len(numbers)] + numbers
