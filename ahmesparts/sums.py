@@ -65,3 +65,22 @@ def products(p, q, most):
         numbers.append(number)
         upper = upper * number - q
     return [len(numbers)] + numbers
+
+
+def turns(p, q, most):
+    """How many numbers a, b, c and so on tell p / q as 1/a - 1/(a b) + 1/(a b c) and so on, then these numbers.
+
+    [-2] if an argument is out of range; [-1] if there are more numbers than most.
+    """
+    if not is_proper_in_range(p, q) or not is_most_in_range(most):
+        return [OUT_OF_RANGE]
+    # 1 less a times the fraction has q as its lower number again, so the upper one alone is kept.
+    upper = p
+    numbers = []
+    # A remainder is less than what it was divided by, so this ends.
+    while upper > 0:
+        if len(numbers) == most:
+            return [NO_ANSWER]
+        numbers.append(q // upper)
+        upper = q % upper
+    return [len(numbers)] + numbers
