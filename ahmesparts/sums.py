@@ -6,6 +6,11 @@ NO_ANSWER = -1
 LARGEST_TERM = 1000000
 LARGEST_MOST = 65536
 
+# all_ways has bounds of its own.
+LARGEST_UPPER_OF_WAYS = 120
+LARGEST_LOWER_OF_WAYS = 30
+LARGEST_PART_COUNT = 4
+
 # 2 to the 64th: every number that is answered stays below it.
 NUMBER_LIMIT = 18446744073709551616
 
@@ -84,3 +89,85 @@ def turns(p, q, most):
         numbers.append(q // upper)
         upper = q % upper
     return [len(numbers)] + numbers
+
+
+def is_ways_fraction_in_range(p, q):
+    """Whether p / q may be handed to all_ways; it need not be below 1."""
+    return 0 < p <= LARGEST_UPPER_OF_WAYS and 0 < q <= LARGEST_LOWER_OF_WAYS
+
+
+def is_part_count_in_range(k):
+    return 0 < k <= LARGEST_PART_COUNT
+
+
+def common_divisor(first, second):
+    """The greatest number that divides both; second is above 0."""
+    divisor = second
+    rest = first % second
+    while rest > 0:
+        next_rest = divisor % rest
+        divisor = rest
+        rest = next_rest
+    return divisor
+
+
+def least_follower(row, upper, lower):
+    """The least number that may come next in row with a part below upper / lower."""
+    least = lower // upper + 1
+    if len(row) > 0:
+        return max(least, row[-1])
+    return least
+
+
+def add_single(rows, row, upper, lower):
+    """Adds to rows row and the number behind it whose part is upper / lower, if there is one."""
+    if lower % upper == 0:
+        rows.append(row + [lower // upper])
+
+
+def add_pairs(rows, row, upper, lower):
+    """Adds to rows, in order, row and each two numbers behind it whose parts come to upper / lower."""
+    divisor = common_divisor(upper, lower)
+    p = upper // divisor
+    q = lower // divisor
+    # 1/x + 1/y is p / q where (p x - q) (p y - q) is q q. So it's enough to find the divisors p x - q of q q, up to q
+    # as x is no greater than y. As p and q have no common divisor, p divides what makes y wherever it does with x.
+    square = q * q
+    for factor in range(p * least_follower(row, p, q) - q, q + 1, p):
+        if square % factor == 0:
+            rows.append(row + [(factor + q) // p, (square // factor + q) // p])
+
+
+def add_ways(rows, row, upper, lower, k, most):
+    """Adds to rows, in order, row and each k numbers behind it whose parts come to upper / lower.
+
+    Once there are more rows than most it may leave out the rest.
+    """
+    if k == 1:
+        add_single(rows, row, upper, lower)
+    elif k == 2:
+        add_pairs(rows, row, upper, lower)
+    else:
+        # The first of k parts is the greatest of them, so it is upper / lower by k at least.
+        for number in range(least_follower(row, upper, lower), k * lower // upper + 1):
+            add_ways(rows, row + [number], upper * number - lower, lower * number, k - 1, most)
+            if len(rows) > most:
+                return
+
+
+def all_ways(p, q, k, most):
+    """How many rows of k numbers, none less than the one before it, have parts that come to p / q; then the rows.
+
+    [-2] if an argument is out of range; [-1] if there are more rows than most.
+    """
+    if not is_ways_fraction_in_range(p, q) or not is_part_count_in_range(k) or not is_most_in_range(most):
+        return [OUT_OF_RANGE]
+    rows = []
+    # No number comes near NUMBER_LIMIT: the largest that p, q and k allow is 749662454730, for 1 / 30 by 4 parts.
+    add_ways(rows, [], p, q, k, most)
+    if len(rows) > most:
+        return [NO_ANSWER]
+    answer = [len(rows)]
+    for row in rows:
+        answer.extend(row)
+    return answer
