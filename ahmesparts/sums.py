@@ -171,3 +171,24 @@ def all_ways(p, q, k, most):
     for row in rows:
         answer.extend(row)
     return answer
+
+
+def sum_of(parts):
+    """0, then what the parts of these numbers come to in lowest terms: the upper number, then the lower one.
+
+    [-2] if a number is 0; [-1] if the upper or the lower number is 2 ** 64 or above.
+    """
+    if 0 in parts:
+        return [OUT_OF_RANGE]
+    upper = 0
+    lower = 1
+    for part in parts:
+        upper = upper * part + lower
+        lower = lower * part
+    divisor = common_divisor(upper, lower)
+    upper = upper // divisor
+    lower = lower // divisor
+    # Asked of the sum alone: on the way there the numbers may have been larger.
+    if upper >= NUMBER_LIMIT or lower >= NUMBER_LIMIT:
+        return [NO_ANSWER]
+    return [0, upper, lower]
