@@ -11,6 +11,15 @@ LARGEST_UPPER_OF_WAYS = 120
 LARGEST_LOWER_OF_WAYS = 30
 LARGEST_PART_COUNT = 4
 
+LARGEST_TOTAL = 1000
+
+# The numbers that one refuses with -1. There are no others: Graham showed in 1963 that every number above 77 can be
+# come to, and up to 77 all ways can be tried.
+NOT_COME_TO = (
+    2, 3, 4, 5, 6, 7, 8, 9, 10, 12, 13, 14, 15, 16, 17, 18, 19, 20, 21, 22, 23, 25, 26, 27, 28, 29, 33, 34, 35, 36, 39,
+    40, 41, 42, 44, 46, 47, 48, 49, 51, 56, 58, 63, 68, 70, 72, 77,
+)
+
 # 2 to the 64th: every number that is answered stays below it.
 NUMBER_LIMIT = 18446744073709551616
 
@@ -119,10 +128,10 @@ def least_follower(row, upper, lower):
     return least
 
 
-def add_single(rows, row, upper, lower):
-    """Adds to rows row and the number behind it whose part is upper / lower, if there is one."""
+def add_single(rows, upper, lower):
+    """Adds to rows the number whose part is upper / lower, as a row of its own, if there is one."""
     if lower % upper == 0:
-        rows.append(row + [lower // upper])
+        rows.append([lower // upper])
 
 
 def add_pairs(rows, row, upper, lower):
@@ -144,7 +153,8 @@ def add_ways(rows, row, upper, lower, k, most):
     Once there are more rows than most it may leave out the rest.
     """
     if k == 1:
-        add_single(rows, row, upper, lower)
+        # A row that has numbers already ends with a pair, so here it has none.
+        add_single(rows, upper, lower)
     elif k == 2:
         add_pairs(rows, row, upper, lower)
     else:
@@ -152,7 +162,7 @@ def add_ways(rows, row, upper, lower, k, most):
         for number in range(least_follower(row, upper, lower), k * lower // upper + 1):
             add_ways(rows, row + [number], upper * number - lower, lower * number, k - 1, most)
             if len(rows) > most:
-                return
+                break
 
 
 def all_ways(p, q, k, most):
@@ -192,3 +202,15 @@ def sum_of(parts):
     if upper >= NUMBER_LIMIT or lower >= NUMBER_LIMIT:
         return [NO_ANSWER]
     return [0, upper, lower]
+
+
+def one(n):
+    """[1] if there are different numbers above 0 that come to n while their parts come to 1, [-1] if there are none.
+
+    [-2] if n is out of range.
+    """
+    if not 0 < n <= LARGEST_TOTAL:
+        return [OUT_OF_RANGE]
+    if n in NOT_COME_TO:
+        return [NO_ANSWER]
+    return [1]
